@@ -1,0 +1,169 @@
+package within_test
+
+import (
+	"math"
+	"slices"
+	"testing"
+
+	"keyhole/within"
+)
+
+// thing has things in it.
+type thing struct {
+	name int
+	in   []thing
+}
+
+func inner(x *thing) []thing { return x.in }
+
+func named(a, b *thing) bool { return a.name == b.name }
+
+// tree is a thing of that name that has these in it.
+func tree(name int, in ...thing) thing { return thing{name, in} }
+
+// double has a thing twice in it, which has one twice in it, and so on, so many times.
+func double(n int) thing {
+	x := tree(1)
+	for range n {
+		x = tree(1, x, x)
+	}
+	return x
+}
+
+// ring is what is in itself, so many deep.
+func ring(n int) thing {
+	things := make([]thing, n)
+	for i := range n {
+		next := (i + 1) % n
+		things[i] = tree(1, things[next:next+1]...)
+	}
+	return things[0]
+}
+
+// row is a thing in a thing, and so on, so many times.
+func row(n int) thing {
+	x := tree(1)
+	for range n {
+		x = tree(1, x)
+	}
+	return x
+}
+
+func wantSame(t *testing.T, title string, a, b []thing, want bool) {
+	t.Helper()
+	if within.Same(a, b, inner, named) != want || within.Same(b, a, inner, named) != want {
+		t.Errorf("Same of %s isn't %v both ways round", title, want)
+	}
+}
+
+func TestSame(t *testing.T) {
+	a := []thing{tree(1, tree(2), tree(3, tree(4))), tree(5)}
+	wantSame(t, "none and none", nil, []thing{}, true)
+	wantSame(t, "none and one", nil, a[:1], false)
+	wantSame(t, "two of the same", a, []thing{tree(1, tree(2), tree(3, tree(4))), tree(5)}, true)
+	wantSame(t, "one and two", a[:1], a, false)
+	wantSame(t, "another name at the end", a, []thing{tree(1, tree(2), tree(3, tree(4))), tree(6)}, false)
+	wantSame(t, "another name far in", a, []thing{tree(1, tree(2), tree(3, tree(0))), tree(5)}, false)
+	wantSame(t, "one less far in", a, []thing{tree(1, tree(2), tree(3)), tree(5)}, false)
+	wantSame(t, "one more far in", a, []thing{tree(1, tree(2, tree(4)), tree(3, tree(4))), tree(5)}, false)
+	wantSame(t, "shared ones", []thing{double(70)}, []thing{double(70)}, true)
+	wantSame(t, "shared ones, one deeper", []thing{double(70)}, []thing{double(71)}, false)
+	wantSame(t, "deep ones", []thing{row(200000)}, []thing{row(200000)}, true)
+	wantSame(t, "what is in itself", []thing{ring(2)}, []thing{ring(3)}, true)
+	wantSame(t, "what is in itself, and a row", []thing{ring(2)}, []thing{row(20)}, false)
+}
+
+func TestTurn(t *testing.T) {
+	turn := func(x *thing, in []thing) thing { return thing{10 * x.name, in} }
+	got := within.Turn([]thing{tree(1, tree(2), tree(3, tree(4))), tree(5)}, inner, turn)
+	wantSame(t, "what was turned", got, []thing{tree(10, tree(20), tree(30, tree(40))), tree(50)}, true)
+	if len(within.Turn(nil, inner, turn)) != 0 {
+		t.Error("of nothing something is made")
+	}
+	tens := within.Turn([]thing{double(70)}, inner, turn)
+	if &tens[0].in[0].in[0] != &tens[0].in[1].in[0] {
+		t.Error("what was shared isn't")
+	}
+	held := within.Turn([]thing{ring(3)}, inner, turn)
+	if held[0].in[0].in[0].in[0].in[0].name != 10 {
+		t.Error("what is in itself isn't turned")
+	}
+	if deep := within.Turn([]thing{row(200000)}, inner, turn); deep[0].in[0].in[0].name != 10 {
+		t.Error("what is deep isn't turned")
+	}
+}
+
+func wantTally(t *testing.T, title string, list []thing, want int, told bool) {
+	t.Helper()
+	open := func(list []thing) bool { return list[0].name >= 0 }
+	// The number is 3 for each thing that has none in it, and 10 times that of those that have.
+	add := func(sum, in int) (int, bool) { return sum + max(3, 10*in), sum < 100 }
+	if got, ok := within.Tally(list, inner, open, add); got != want || ok != told {
+		t.Errorf("Tally of %s is %d, %v, not %d, %v", title, got, ok, want, told)
+	}
+}
+
+func TestTally(t *testing.T) {
+	wantTally(t, "nothing", nil, 0, true)
+	wantTally(t, "one", []thing{tree(1)}, 3, true)
+	wantTally(t, "two", []thing{tree(1), tree(1)}, 6, true)
+	wantTally(t, "two in one", []thing{tree(1, tree(1), tree(1))}, 60, true)
+	wantTally(t, "two in one, and one", []thing{tree(1, tree(1), tree(1)), tree(1)}, 63, true)
+	wantTally(t, "so many that it is over", []thing{tree(1, tree(1), tree(1)), tree(1, tree(1), tree(1)), tree(1)}, 0, false)
+	wantTally(t, "a list that isn't gone on into", []thing{tree(1), tree(1, tree(-1))}, 0, false)
+	wantTally(t, "a list that isn't gone on into at once", []thing{tree(-1)}, 0, false)
+	wantTally(t, "what is in itself", []thing{ring(4)}, 0, false)
+	list := []thing{tree(1), tree(1)}
+	wantTally(t, "one list twice", []thing{tree(1, list...), tree(1, list[:1]...)}, 90, true)
+}
+
+func TestTallyOpensOnce(t *testing.T) {
+	var opened []int
+	open := func(list []thing) bool {
+		opened = append(opened, list[0].name)
+		return true
+	}
+	add := func(sum, in int) (int, bool) { return max(sum, in+1), true }
+	x := tree(2, tree(3))
+	deep, ok := within.Tally([]thing{tree(1, x, x), x}, inner, open, add)
+	slices.Sort(opened)
+	if deep != 3 || !ok || !slices.Equal(opened, []int{1, 2, 3}) {
+		t.Errorf("the depth is %d, %v; opened were %v", deep, ok, opened)
+	}
+}
+
+func wantCount(t *testing.T, x thing, most, want int, held bool) {
+	t.Helper()
+	if got, ok := within.Count(x, inner, most); got != want || ok != held {
+		t.Errorf("Count, at most %d, is %d, %v, not %d, %v", most, got, ok, want, held)
+	}
+}
+
+func TestCount(t *testing.T) {
+	for n := range 40 {
+		size := 1<<(n+1) - 1
+		wantCount(t, double(n), size, size, true)
+		wantCount(t, double(n), size-1, 0, false)
+		wantCount(t, double(n), math.MaxInt, size, true)
+		wantCount(t, row(n), n+1, n+1, true)
+		wantCount(t, row(n), n, 0, false)
+	}
+	for _, most := range []int{math.MinInt, -1, 0} {
+		wantCount(t, tree(1), most, 0, false)
+	}
+	wantCount(t, double(62), math.MaxInt, math.MaxInt, true)
+	wantCount(t, double(63), math.MaxInt, 0, false)
+	wantCount(t, ring(5), math.MaxInt, 0, false)
+	wantCount(t, row(200000), math.MaxInt, 200001, true)
+}
+
+func TestCountTellsFarTooManyEarly(t *testing.T) {
+	asked := 0
+	counted := func(x *thing) []thing {
+		asked++
+		return x.in
+	}
+	if _, ok := within.Count(tree(1, make([]thing, 1000)...), counted, 500); ok || asked > 10 {
+		t.Errorf("Count is %v, and asked %d things", ok, asked)
+	}
+}
