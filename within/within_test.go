@@ -167,3 +167,35 @@ func TestCountTellsFarTooManyEarly(t *testing.T) {
 		t.Errorf("Count is %v, and asked %d things", ok, asked)
 	}
 }
+
+func TestKept(t *testing.T) {
+	kept := within.Kept[thing, int]{}
+	worked := 0
+	var size func(list []thing) int
+	size = func(list []thing) int {
+		n := len(list)
+		if n > 0 {
+			worked++
+		}
+		for i := range list {
+			n += kept.Of(list[i].in, size)
+		}
+		return n
+	}
+	wantSize := func(title string, list []thing, want, more int) {
+		t.Helper()
+		before := worked
+		if got := kept.Of(list, size); got != want || worked-before != more {
+			t.Errorf("%s: %d, not %d, after %d more lists, not %d", title, got, want, worked-before, more)
+		}
+	}
+	list := []thing{tree(1), tree(2, tree(3), tree(4)), tree(5)}
+	wantSize("none", nil, 0, 0)
+	wantSize("empty", []thing{}, 0, 0)
+	wantSize("a list", list, 5, 2)
+	wantSize("it once more", list, 5, 0)
+	wantSize("a part of it", list[:2], 4, 1)
+	wantSize("its end", list[1:], 4, 1)
+	wantSize("what is in it", list[1].in, 2, 0)
+	wantSize("shared ones", []thing{double(60)}, 1<<61-1, 61)
+}
