@@ -7,8 +7,13 @@ type spot[T any] struct {
 	n     int
 }
 
-// spotOf is the spot of a list that isn't empty.
-func spotOf[T any](list []T) spot[T] { return spot[T]{&list[0], len(list)} }
+// spotOf is the spot of a list; all that are empty have the same one.
+func spotOf[T any](list []T) spot[T] {
+	if len(list) == 0 {
+		return spot[T]{}
+	}
+	return spot[T]{&list[0], len(list)}
+}
 
 // pair is two lists of one length.
 type pair[T any] struct{ a, b []T }

@@ -199,3 +199,61 @@ func TestKept(t *testing.T) {
 	wantSize("what is in it", list[1].in, 2, 0)
 	wantSize("shared ones", []thing{double(60)}, 1<<61-1, 61)
 }
+
+// wantFold holds what is made of a list, which stands under a number: each thing adds its name to that number, and the list in it stands under the sum, up to 9; of a list all sums are told, and those of the lists in it.
+func wantFold(t *testing.T, title string, list []thing, under, want, works int, told bool) {
+	t.Helper()
+	worked := 0
+	lower := func(x *thing, under int) ([]thing, int) { return x.in, min(under+x.name, 9) }
+	work := func(list []thing, under int, in func(int) int) int {
+		if len(list) > 0 {
+			worked++
+		}
+		sum := 0
+		for i := range list {
+			sum += under + list[i].name + in(i)
+		}
+		return sum
+	}
+	if got, ok := within.Fold(list, under, lower, work); got != want || ok != told || worked != works {
+		t.Errorf("Fold of %s is %d, %v, after %d works, not %d, %v, after %d", title, got, ok, worked, want, told, works)
+	}
+}
+
+func TestFold(t *testing.T) {
+	wantFold(t, "nothing", nil, 5, 0, 0, true)
+	wantFold(t, "one", []thing{tree(2)}, 5, 7, 1, true)
+	wantFold(t, "two", []thing{tree(2), tree(3)}, 1, 3+4, 1, true)
+	wantFold(t, "two in one, and one", []thing{tree(2, tree(3), tree(4, tree(1))), tree(1)}, 0, 2+5+6+7+1, 3, true)
+	list := []thing{tree(1), tree(2)}
+	wantFold(t, "a list twice under the same", []thing{tree(3, list...), tree(3, list...)}, 0, 3+4+5+3+4+5, 2, true)
+	wantFold(t, "a list twice under unlike ones", []thing{tree(3, list...), tree(4, list...)}, 0, 3+4+5+4+5+6, 3, true)
+	wantFold(t, "a list, and a part of it", []thing{tree(3, list...), tree(3, list[:1]...), tree(3, list[1:]...)}, 0, 3+4+5+3+4+3+5, 4, true)
+	wantFold(t, "shared ones", []thing{double(30)}, 9, 10*(1<<31-1), 31, true)
+	wantFold(t, "shared ones, under what rises", []thing{double(3)}, 0, 1+2*2+4*3+8*4, 4, true)
+	wantFold(t, "deep ones", []thing{row(200000)}, 9, 10*200001, 200001, true)
+	for n := 1; n < 12; n++ {
+		wantFold(t, "what stands in itself", []thing{tree(1), ring(n)}, 0, 0, 0, false)
+	}
+}
+
+func TestFoldGoesOnlyWhereInnerLeads(t *testing.T) {
+	var worked []int
+	lower := func(x *thing, deep int) ([]thing, int) {
+		if deep == 3 {
+			return nil, deep
+		}
+		return x.in, deep + 1
+	}
+	work := func(list []thing, deep int, in func(int) int) int {
+		if len(list) == 0 {
+			return 0
+		}
+		worked = append(worked, deep)
+		return 1 + in(0)
+	}
+	// What stands in itself ends, where it is led on to under something else each time, and then no more.
+	if got, ok := within.Fold([]thing{ring(2)}, 0, lower, work); got != 4 || !ok || !slices.Equal(worked, []int{3, 2, 1, 0}) {
+		t.Errorf("Fold is %d, %v, after the works %v", got, ok, worked)
+	}
+}
