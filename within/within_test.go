@@ -257,3 +257,68 @@ func TestFoldGoesOnlyWhereInnerLeads(t *testing.T) {
 		t.Errorf("Fold is %d, %v, after the works %v", got, ok, worked)
 	}
 }
+
+// wantWalk holds the names that a walk tells till it is stopped, or ends by itself.
+func wantWalk(t *testing.T, title string, list []thing, stop, often int, want []int, told bool) {
+	t.Helper()
+	var got []int
+	see := func(x *thing) bool {
+		got = append(got, x.name)
+		return len(got) != stop
+	}
+	if ok := within.Walk(list, inner, see, often); ok != told || !slices.Equal(got, want) {
+		t.Errorf("a walk of %s that stops at %d, asking %d times, is %v, and tells %v, not %v", title, stop, often, ok, got, want)
+	}
+}
+
+func TestWalk(t *testing.T) {
+	wantWalk(t, "nothing", nil, 0, 9, nil, true)
+	list := []thing{tree(1, tree(2), tree(3, tree(4), tree(5))), tree(6), tree(7, tree(8))}
+	all := []int{1, 2, 3, 4, 5, 6, 7, 8}
+	wantWalk(t, "a list", list, 0, 0, all, true)
+	wantWalk(t, "a list", list, 9, 0, all, true)
+	for stop := 1; stop <= 8; stop++ {
+		wantWalk(t, "a list", list, stop, 0, all[:stop], false)
+	}
+	twice := tree(1, tree(2), tree(3))
+	wantWalk(t, "shared ones", []thing{twice, twice}, 0, 0, []int{1, 2, 3, 1, 2, 3}, true)
+	mixed := tree(4, twice.in[0], tree(5, twice.in...))
+	wantWalk(t, "shared ones within one another", []thing{twice, mixed}, 0, 0, []int{1, 2, 3, 4, 2, 5, 2, 3}, true)
+	asked := 0
+	count := func(*thing) bool {
+		asked++
+		return true
+	}
+	if !within.Walk([]thing{row(200000)}, inner, count, 0) || asked != 200001 {
+		t.Errorf("a walk of what is deep asks %d times", asked)
+	}
+}
+
+func TestWalkOfWhatStandsInItself(t *testing.T) {
+	// In the list 2, 3, 4 the second one has that list in it, and what is behind it is never come to.
+	round := []thing{tree(2), tree(3), tree(4)}
+	round[1].in = round
+	list := []thing{tree(1, round...), tree(5)}
+	rounds := []int{1, 2, 3, 2, 3, 2, 3, 2, 3, 2, 3}
+	for stop := 1; stop <= len(rounds); stop++ {
+		wantWalk(t, "what stands in itself", list, stop, 100, rounds[:stop], false)
+	}
+	for often := -1; often <= len(rounds); often++ {
+		wantWalk(t, "what stands in itself", list, 0, often, rounds[:max(3, (often/2)*2+1)], true)
+	}
+	// The list that stands in itself has another one behind it, in which it stands again.
+	outer := []thing{tree(1), tree(2)}
+	middle := []thing{tree(3), tree(4, outer...)}
+	outer[0].in = middle
+	wantWalk(t, "what stands in what stands in itself", outer, 10, 100, []int{1, 3, 4, 1, 3, 4, 1, 3, 4, 1}, false)
+	for n := 1; n < 5; n++ {
+		asked := 0
+		see := func(*thing) bool {
+			asked++
+			return asked < 1000000
+		}
+		if within.Walk([]thing{ring(n)}, inner, see, math.MaxInt) || asked != 1000000 {
+			t.Errorf("a walk of a ring of %d asks %d times", n, asked)
+		}
+	}
+}
